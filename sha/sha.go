@@ -48,25 +48,29 @@ func Schedule(block [64]byte) [64]uint32 {
 
 // Round is a round: P1.1.
 func Round(v [8]uint32, n uint32) [8]uint32 {
-	a, b, c, d, e, f, g, h := v[0], v[1], v[2], v[3], v[4], v[5], v[6], v[7]
-	s1 := rolled(e, 6) ^ rolled(e, 11) ^ rolled(e, 25)
-	choice := e&f | ^e&g
-	t := h + s1 + choice + n
-	s0 := rolled(a, 2) ^ rolled(a, 13) ^ rolled(a, 22)
-	majority := a&b | a&c | b&c
-	return [8]uint32{t + s0 + majority, a, b, c, d + t, e, f, g}
+	a, e := turn(v[0], v[1], v[2], v[4], v[5], v[6], v[7]+n)
+	return [8]uint32{a, v[0], v[1], v[2], v[3] + e, v[4], v[5], v[6]}
 }
 
 // Press presses a block in: P1.1.
 func Press(v [8]uint32, block [64]byte) [8]uint32 {
-	pressed := v
+	// Words that stand alone stay in the machine's registers, which an array doesn't.
+	a, b, c, d, e, f, g, h := v[0], v[1], v[2], v[3], v[4], v[5], v[6], v[7]
 	for i, w := range Schedule(block) {
-		pressed = Round(pressed, w+constants[i])
+		first, added := turn(a, b, c, e, f, g, h+w+constants[i])
+		a, b, c, d, e, f, g, h = first, a, b, c, d+added, e, f, g
 	}
-	for i := range pressed {
-		pressed[i] += v[i]
-	}
-	return pressed
+	return [8]uint32{v[0] + a, v[1] + b, v[2] + c, v[3] + d, v[4] + e, v[5] + f, v[6] + g, v[7] + h}
+}
+
+// turn tells of a round its first word, and what is added to its fourth; h is the last word with the round's number.
+func turn(a, b, c, e, f, g, h uint32) (uint32, uint32) {
+	s1 := rolled(e, 6) ^ rolled(e, 11) ^ rolled(e, 25)
+	choice := e&f | ^e&g
+	t := h + s1 + choice
+	s0 := rolled(a, 2) ^ rolled(a, 13) ^ rolled(a, 22)
+	majority := a&b | a&c | b&c
+	return t + s0 + majority, t
 }
 
 // Tail is what stands behind so many bytes: P1.1.
